@@ -24,9 +24,20 @@ func Check(v api.Value) error {
 		return api.ErrType
 	case !inRange(v.Type, v.N):
 		return api.ErrRange
-	case len(v.S) > api.MaxText:
+	case v.Type == api.Text:
+		return checkText(v.S)
+	case v.S != "":
+		return api.ErrSyntax
+	}
+	return nil
+}
+
+// checkText is for a Text alone: of others, an S of any length is wrong for being there, not for being too long.
+func checkText(s string) error {
+	switch {
+	case len(s) > api.MaxText:
 		return api.ErrFull
-	case v.Type != api.Text && v.S != "", !isPrintable(v.S):
+	case !isPrintable(s):
 		return api.ErrSyntax
 	}
 	return nil

@@ -82,13 +82,40 @@ func TestCheckFirst(t *testing.T) {
 		{api.Value{Type: api.Int, N: 1000001, S: "a"}, api.ErrRange},
 		{api.Value{Type: api.Bool, N: 2, S: long}, api.ErrRange},
 		{api.Value{Type: api.Text, S: long}, api.ErrFull},
-		{api.Value{Type: api.Int, S: letters(20)}, api.ErrSyntax},
-		{api.Value{Type: api.Int, S: letters(21)}, api.ErrFull},
-		{api.Value{Type: api.Bool, S: long}, api.ErrFull},
+		{api.Value{Type: api.Int, N: -1000001, S: letters(21)}, api.ErrRange},
 	}
 	for _, c := range cases {
 		if got := told(Check(c.v)); got != c.want {
 			t.Errorf("Check(%v): got %v, want %v", c.v, got, c.want)
+		}
+	}
+}
+
+// TestCheckOthers: V1 and V2, an Int or a Bool with an S of any length and of any byte is ErrSyntax, in each call that checks it.
+func TestCheckOthers(t *testing.T) {
+	for _, valueType := range []int{api.Int, api.Bool} {
+		for _, n := range []int{0, 1} {
+			for _, long := range []int{1, 2, 19, 20, 21, 22, 40, 1000} {
+				for _, c := range []string{"z", " ", "'", "0", "\n", "\x00", "\xff"} {
+					checkOther(t, api.Value{Type: valueType, N: n, S: strings.Repeat(c, long)})
+				}
+			}
+		}
+	}
+}
+
+func checkOther(t *testing.T, v api.Value) {
+	t.Helper()
+	good := api.Value{Type: v.Type, N: v.N}
+	if got := told(Check(v)); got != api.ErrSyntax {
+		t.Errorf("Check(%v): got %v, want ErrSyntax", v, got)
+	}
+	if got, err := Print(v); got != "" || told(err) != api.ErrSyntax {
+		t.Errorf("Print(%v): got %q, %v, want ErrSyntax", v, got, err)
+	}
+	for _, pair := range [][2]api.Value{{v, v}, {v, good}, {good, v}} {
+		if got, err := Compare(pair[0], pair[1]); got != 0 || told(err) != api.ErrSyntax {
+			t.Errorf("Compare(%v, %v): got %d, %v, want 0, ErrSyntax", pair[0], pair[1], got, err)
 		}
 	}
 }
