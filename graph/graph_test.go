@@ -1,6 +1,7 @@
 package graph
 
 import (
+	"cmp"
 	"math"
 	"reflect"
 	"slices"
@@ -353,6 +354,21 @@ func TestCheckRises(t *testing.T) {
 			}
 			if err := Check(ties(a, b)); told(err) != want {
 				t.Errorf("%v, then %v: got %v, want %v", a, b, err, want)
+			}
+		}
+	}
+}
+
+// TestCompareTies: G1, by bond, then from, then to, whether they are right or not.
+func TestCompareTies(t *testing.T) {
+	rising := []api.Tie{
+		tie("", 1, 1), tie("A", 1, 1), tie("a", math.MinInt, 1), tie("a", 0, 0), tie("a", 0, 1000), tie("a", 1, math.MinInt), tie("a", 1, 1), tie("a", 1, 2), tie("a", 1, 10),
+		tie("a", 2, 1), tie("a", 10, 1), tie("a", math.MaxInt, math.MaxInt), tie("aa", 1, 1), tie("b", 1, 1), tie("\xff", 1, 1),
+	}
+	for i, a := range rising {
+		for j, b := range rising {
+			if got := CompareTies(a, b); got != cmp.Compare(i, j) {
+				t.Errorf("CompareTies(%v, %v): got %d", a, b, got)
 			}
 		}
 	}
