@@ -66,7 +66,7 @@ func between(a, b api.Graph) []api.Op {
 	return slices.Concat(
 		opsUnless(a.Ties, now.hasTie, func(t api.Tie) api.Op { return api.Op{What: api.Loose, Tie: t} }),
 		opsUnless(a.Nodes, now.hasNode, func(n api.Node) api.Op { return api.Op{What: api.Gone, Node: api.Node{Id: n.Id}} }),
-		opsUnless(b.Nodes, old.hasNode, func(n api.Node) api.Op { return api.Op{What: api.New, Node: copiedNode(n)} }),
+		opsUnless(b.Nodes, old.hasNode, func(n api.Node) api.Op { return api.Op{What: api.New, Node: graph.CopyNode(n)} }),
 		recordOps(a, now),
 		opsUnless(b.Ties, stays, func(t api.Tie) api.Op { return api.Op{What: api.Bind, Tie: t} }),
 	)

@@ -682,3 +682,33 @@ func TestFreshAppend(t *testing.T) {
 		t.Errorf("got %v, %v beside %v", n, err, all)
 	}
 }
+
+// TestCopy: P2 and P4, a copy is the same, right or not, and shares no memory; what stands behind a length is neither read nor written.
+func TestCopy(t *testing.T) {
+	whole, g := full()
+	want := both(nodes(node(1, "a", prop("x", number(1)), prop("y", words("u"))), node(2, "b")), ties(tie("p", 1, 1), tie("p", 1, 2), tie("p", 2, 1)))
+	first, second := Copy(g), Copy(g)
+	one := CopyNode(g.Nodes[0])
+	for i := range first.Nodes {
+		fill(first.Nodes[i].Record, prop("new", number(i)))
+	}
+	fill(first.Nodes, node(9, "new"))
+	fill(first.Ties, tie("new", 9, 9))
+	if again, cut := full(); !reflect.DeepEqual(whole, again) || !reflect.DeepEqual(g, cut) || g.Nodes[:3][2].Kind != "A" || g.Ties[:4][3].Bond != "A" {
+		t.Errorf("what is handed in is written into: %v", whole)
+	}
+	fill(g.Nodes[0].Record, prop("new", number(9)))
+	fill(g.Nodes, node(9, "new"))
+	fill(g.Ties, tie("new", 9, 9))
+	if is, err := Same(second, want); !is || err != nil {
+		t.Errorf("Copy: got %v, %v, want %v", second, err, want)
+	}
+	if !sameNode(one, want.Nodes[0]) {
+		t.Errorf("CopyNode: got %v, want %v", one, want.Nodes[0])
+	}
+	for _, c := range []api.Graph{{}, both(ids(7, 7, 0), ties(tie("", -1, 0), tie("", -1, 0))), nodes(node(1, "A", prop("", api.Value{}), prop("", api.Value{})))} {
+		if got := Copy(c); !slices.EqualFunc(got.Nodes, c.Nodes, sameNode) || !slices.Equal(got.Ties, c.Ties) {
+			t.Errorf("Copy(%v): got %v", c, got)
+		}
+	}
+}

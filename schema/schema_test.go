@@ -440,3 +440,45 @@ func TestParseFresh(t *testing.T) {
 		t.Errorf("answers are kept: %v, %v", c, err)
 	}
 }
+
+// TestCopy: P2 and P4, a copy is the same, right or not, and shares no memory; what stands behind a length is neither read nor written.
+func TestCopy(t *testing.T) {
+	wipe := func(s api.Schema) {
+		for _, k := range s.Kinds {
+			for i := range k.Of[:cap(k.Of)] {
+				k.Of[:cap(k.Of)][i] = "new"
+			}
+			for i := range k.Fields[:cap(k.Fields)] {
+				k.Fields[:cap(k.Fields)][i] = field("new", 9)
+			}
+		}
+		for i := range s.Kinds[:cap(s.Kinds)] {
+			s.Kinds[:cap(s.Kinds)][i] = someKind("new", "")
+		}
+		for i := range s.Bonds[:cap(s.Bonds)] {
+			s.Bonds[:cap(s.Bonds)][i] = loose("new a a")
+		}
+	}
+	whole, s := full()
+	first, second := Copy(s), Copy(s)
+	wipe(first)
+	if again, cut := full(); !reflect.DeepEqual(whole, again) || !reflect.DeepEqual(s, cut) || s.Kinds[:3][2].Name != "B" {
+		t.Errorf("what is handed in is written into: %v", whole)
+	}
+	wipe(s)
+	want := "kind a x:int y:text!\nkind b of a w:bool\nbond p b a 0 any\nbond q a b 1 2\n"
+	if got, err := Print(second); got != want || err != nil {
+		t.Errorf("Copy: got %v, which is %q, %v", second, got, err)
+	}
+	for _, c := range []api.Schema{{}, schema([]api.Kind{someKind("A", "zz zz", field("", 0), field("", 7)), someKind("A", "")}, bond("P q r", 5, -9), bond("P q r", 5, -9))} {
+		got := Copy(c)
+		if len(got.Kinds) != len(c.Kinds) || !slices.Equal(got.Bonds, c.Bonds) {
+			t.Errorf("Copy(%v): got %v", c, got)
+		}
+		for i, k := range c.Kinds {
+			if got.Kinds[i].Name != k.Name || !slices.Equal(got.Kinds[i].Of, k.Of) || !slices.Equal(got.Kinds[i].Fields, k.Fields) {
+				t.Errorf("Copy(%v): got %v", c, got)
+			}
+		}
+	}
+}
