@@ -274,7 +274,7 @@ func smallOps() (l []api.Op) {
 	return l
 }
 
-// TestAllSmall: I1 and I2, all graphs of up to three nodes and some ties, and each of some ops on them.
+// TestAllSmall: I1 and I2, all graphs of up to three nodes of some forms, with some ties, and each of some ops on them.
 func TestAllSmall(t *testing.T) {
 	s := made("kind a k:int*\nkind b of a m:text\nkind c\nbond p a a 0 1\n")
 	forms := []api.Node{{}, node(0, "a", "k=1"), node(0, "a", "k=2"), node(0, "b", "k=1"), node(0, "b", "k=2,m='u'"), node(0, "c", "-")}

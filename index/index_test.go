@@ -13,7 +13,7 @@ type badSchema struct {
 	want api.Errno
 }
 
-// badSchemas has one of each error of chapters 3 and 4.
+// badSchemas has one of each number of an error that chapters 3 and 4 have.
 func badSchemas() []badSchema {
 	kinds := func(l ...api.Kind) api.Schema { return api.Schema{Kinds: l} }
 	bonds := func(l ...api.Bond) api.Schema { return api.Schema{Kinds: []api.Kind{{Name: "a"}}, Bonds: l} }
@@ -37,7 +37,7 @@ type badGraph struct {
 	want api.Errno
 }
 
-// badGraphs has one of each error of chapter 5, and of those that it stands on. By no schema they conform.
+// badGraphs has one of each number of an error that chapter 5 has, and those that it stands on.
 func badGraphs() []badGraph {
 	one := func(l ...api.Prop) api.Graph { return nodes(api.Node{Id: 1, Kind: "a", Record: l}) }
 	return []badGraph{
