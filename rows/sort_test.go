@@ -116,8 +116,8 @@ func TestSortStood(t *testing.T) {
 				t.Errorf("down %v: %v stands ahead of %v", down, got[i], got[i+1])
 			}
 		}
-		testPlainly(t, l, "k")
 	}
+	testPlainly(t, l, "k")
 }
 
 // anyRecords has so many records, of few names and values, so that many are equal.

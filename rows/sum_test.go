@@ -52,7 +52,7 @@ func TestSumCount(t *testing.T) {
 	}
 }
 
-// TestSumType: W1, a bool or a text in the first, a middle and the last record, whatever is told by it.
+// TestSumType: W1, a bool or a text in the first, a middle and the last record, whatever the others have.
 func TestSumType(t *testing.T) {
 	for _, text := range []string{"k=true", "k=false", "k=''", "k='u'", "k='7'", "a=1,k='0',m=2"} {
 		for _, n := range []int{1, 2, 3, 5, 200} {
@@ -61,7 +61,6 @@ func TestSumType(t *testing.T) {
 					l := times(n, other)
 					l[at] = made(text)
 					testNoSum(t, l, "k", api.ErrType)
-					testNoSort(t, l, "K", api.ErrSyntax)
 				}
 			}
 		}
