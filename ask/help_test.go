@@ -135,11 +135,11 @@ func same(a, b []api.Step) bool {
 func testPlain(t *testing.T, l []api.Step, want api.Errno) {
 	t.Helper()
 	if got := told(Plain(l)); got != want {
-		t.Errorf("Plain(%.300v): got %v, want %v", l, got, want)
+		t.Errorf("Plain(%v): got %v, want %v", l, got, want)
 	}
 	text, err := Print(l)
 	if told(err) != want || (text == "") != (want != api.OK) {
-		t.Errorf("Print(%.300v): got %q, %v, want %v", l, text, err, want)
+		t.Errorf("Print(%v): got %q, %v, want %v", l, text, err, want)
 	}
 }
 

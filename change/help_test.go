@@ -408,7 +408,7 @@ func testDo(t *testing.T, s api.Schema, c api.Change, want string) {
 func testNoDo(t *testing.T, s api.Schema, c api.Change, want api.Errno) {
 	t.Helper()
 	if got, err := Do(s, c); !same(got, api.Schema{}) || told(err) != want {
-		t.Errorf("Do(%v, %.300v): got %v, %v, want %v", s, c, got, err, want)
+		t.Errorf("Do(%v, %v): got %v, %v, want %v", s, c, got, err, want)
 	}
 	testNoKinds(t, s, c, want)
 	testNoAll(t, s, changes(c), 0, want)
@@ -424,7 +424,7 @@ func testKinds(t *testing.T, s api.Schema, c api.Change, want string) {
 func testNoKinds(t *testing.T, s api.Schema, c api.Change, want api.Errno) {
 	t.Helper()
 	if got, err := Kinds(s, c); len(got) != 0 || told(err) != want {
-		t.Errorf("Kinds(%v, %.300v): got %v, %v, want %v", s, c, got, err, want)
+		t.Errorf("Kinds(%v, %v): got %v, %v, want %v", s, c, got, err, want)
 	}
 }
 
@@ -439,7 +439,7 @@ func testAll(t *testing.T, s api.Schema, l []api.Change, want api.Schema) {
 func testNoAll(t *testing.T, s api.Schema, l []api.Change, at int, want api.Errno) {
 	t.Helper()
 	if got, i, err := All(s, l); !same(got, api.Schema{}) || i != at || told(err) != want {
-		t.Errorf("All(%v, %.300v): got %v, %d, %v, want %v at %d", s, l, got, i, err, want, at)
+		t.Errorf("All(%v, %v): got %v, %d, %v, want %v at %d", s, l, got, i, err, want, at)
 	}
 }
 
