@@ -1,12 +1,12 @@
 package schema
 
 import (
-	"iter"
 	"slices"
 	"strconv"
 	"strings"
 
 	"kinshape/api"
+	"kinshape/lines"
 )
 
 const (
@@ -14,12 +14,10 @@ const (
 	ofWord   = "of"
 	bondWord = "bond"
 	anyWord  = "any"
-	blank    = " "
 	comma    = ","
 	colon    = ":"
 	mustMark = "!"
 	keyMark  = "*" // what is a Key must be there: it says both
-	lineEnd  = "\n"
 
 	bondWords = 6  // of a bond's line
 	mostRead  = 99 // the greatest number of two digits
@@ -35,10 +33,10 @@ func Print(s api.Schema) (string, error) {
 	}
 	var text strings.Builder
 	for _, k := range s.Kinds {
-		text.WriteString(lineOf(printKind(k)))
+		text.WriteString(lines.Made(printKind(k)...))
 	}
 	for _, b := range s.Bonds {
-		text.WriteString(lineOf(printBond(b)))
+		text.WriteString(lines.Made(printBond(b)...))
 	}
 	return text.String(), nil
 }
@@ -46,7 +44,7 @@ func Print(s api.Schema) (string, error) {
 // Parse a schema.
 func Parse(text string) (api.Schema, int, error) {
 	var s api.Schema
-	for at, line := range lines(text) {
+	for at, line := range lines.Of(text) {
 		words, ended := wordsOf(line)
 		if !ended || !addLine(&s, words) {
 			return api.Schema{}, at, api.ErrSyntax
@@ -58,27 +56,10 @@ func Parse(text string) (api.Schema, int, error) {
 	return s, 0, nil
 }
 
-func lineOf(words []string) string {
-	return strings.Join(words, blank) + lineEnd
-}
-
-// lines goes over the lines of a text by their numbers, each with its end, if it has one.
-func lines(text string) iter.Seq2[int, string] {
-	return func(yield func(at int, line string) bool) {
-		at := 0
-		for line := range strings.Lines(text) {
-			if !yield(at, line) {
-				return
-			}
-			at++
-		}
-	}
-}
-
 // wordsOf has the words of a line, empty ones where blanks meet; false: it does not end.
 func wordsOf(line string) ([]string, bool) {
-	inner, ended := strings.CutSuffix(line, lineEnd)
-	return strings.Split(inner, blank), ended
+	inner, ended := strings.CutSuffix(line, lines.End)
+	return strings.Split(inner, lines.Blank), ended
 }
 
 func printKind(k api.Kind) []string {
@@ -182,18 +163,12 @@ func parseBond(words []string) (api.Bond, bool) {
 	if len(words) != bondWords || words[0] != bondWord || !areNames(words[1:4]...) {
 		return api.Bond{}, false
 	}
-	least, isLeast := parseNumber(words[4])
-	most, isMost := parseNumber(words[5])
+	least, isLeast := lines.Number(words[4], mostRead)
+	most, isMost := lines.Number(words[5], mostRead)
 	if words[5] == anyWord {
 		most, isMost = anyTies, true
 	}
 	return api.Bond{Name: words[1], From: words[2], To: words[3], Min: least, Max: most}, isLeast && isMost
-}
-
-// parseNumber reads a number of one or two digits. Written anew it is the same just if it has neither a needless 0 nor a sign.
-func parseNumber(word string) (int, bool) {
-	n, err := strconv.Atoi(word)
-	return n, err == nil && 0 <= n && n <= mostRead && strconv.Itoa(n) == word
 }
 
 // areNames tells whether words may stand where names are to be. Whether they are some, Check tells.
